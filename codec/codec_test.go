@@ -580,10 +580,10 @@ func endlessType() api.Type {
 	return t
 }
 
-// checkSoon wants ErrForm as soon as the last part's kind is there, and ErrTorn ahead of it; last is how many bytes it has.
+// checkSoon wants ErrForm where the last part begins, though none of its bytes are there, and ErrTorn ahead of it; last is how many bytes it has.
 func checkSoon[T any](t *testing.T, s string, last int, read func(string, int) reading[T], same func(a, b T) bool) {
 	t.Helper()
-	begun := len(s) - last + 1
+	begun := len(s) - last
 	checkTorn(t, s[:begun], read, same)
 	checkForm(t, s[:begun], read, same)
 	checkForm(t, s, read, same)
@@ -631,6 +631,27 @@ func TestDepth(t *testing.T) {
 	wide := list(nested(11), nested(11), num(1), nested(11))
 	checkValue(t, wide, spell(wide))
 	checkForm(t, spell(list(num(1), wide)), readValue, sameValue)
+}
+
+// P5.2: a part that is one too many is told where it should stand, and not ahead of it: neither by what is said to come, nor by a name.
+func TestOneTooManyBegins(t *testing.T) {
+	lists, records := x("\x05\x01", 12), x("\x06\x01\x01a", 12)
+	for _, s := range []string{lists, x("\x05\xc8\x01", 12), records, x("\x06\xc8\x01\x00", 12), x("\x05\x01\x06\x01\x01a", 6), x("\x06\x01\x01a\x05\x02", 6), "\x05\x02\x02\x02" + x("\x05\x01", 11)} {
+		checkSoon(t, s, 0, readValue, sameValue)
+	}
+	for _, s := range []string{x("\x05", 12), records, x("\x06\xc8\x01\x00", 12), x("\x05\x06\x01\x01a", 6), "\x06\x02\x01a\x02\x01b" + x("\x05", 11)} {
+		checkSoon(t, s, 0, readType, sameType)
+	}
+	checkRead(t, lists[:22]+"\x05\x00", readValue, sameValue, nestedLists(12))
+	checkForm(t, records[:46]+"\x1f", readValue, sameValue) // the twelfth's name is its own
+	checkForm(t, records[:46]+"\x1f", readType, sameType)
+
+	checkSoon(t, "\x05\xc8\x01"+x("\x01\x00", 199), 0, readValue, sameValue)
+	checkSoon(t, "\x05\x02\x05\xc5\x01"+x("\x01\x00", 197)+"\x05\x01", 0, readValue, sameValue)
+	checkSoon(t, "\x06\xc8\x01"+x("\x01a\x01\x00", 199)+"\x01a", 0, readValue, sameValue)
+	checkSoon(t, "\x06\xc8\x01"+x("\x01a\x02", 199)+"\x01a", 0, readType, sameType)
+	checkSoon(t, "\x06\xc7\x01"+x("\x01a\x02", 198)+"\x01a\x05", 0, readType, sameType)
+	checkRead(t, "\x05\xc7\x01"+x("\x01\x00", 199), readValue, sameValue, list(slices.Repeat([]api.Value{truth(0)}, 199)...))
 }
 
 // nestedLists answers an empty list within others.
@@ -782,13 +803,13 @@ func (h *hand) signed() int64 {
 
 func (h *hand) text(most int64) string { return h.bytes(h.upTo(most)) }
 
+// kind begins a part, and fails there and then if it is one too many.
 func (h *hand) kind(depth int) int {
-	kind := int(h.bytes(1)[0])
 	h.parts++
 	if depth == 13 || h.parts == 201 {
 		h.fail(api.ErrForm)
 	}
-	return kind
+	return int(h.bytes(1)[0])
 }
 
 func (h *hand) value(depth int) api.Value {
@@ -892,6 +913,10 @@ func TestShortBytes(t *testing.T) {
 	all("\x06\x02\x01a\x04\x01a", 3)
 	all("\x06\x01\x01a", 3)
 	all("\x03\x7f\xf8\x00\x00\x00\x00", 2)
+	all(x("\x05\x01", 11), 3)
+	all(x("\x06\x01\x01a", 11), 4)
+	all(x("\x05", 11), 3)
+	all("\x05\xc8\x01"+x("\x01\x00", 197), 3)
 }
 
 // turned answers s with something in it changed, or cut off.
