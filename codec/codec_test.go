@@ -337,12 +337,12 @@ func TestStrBytes(t *testing.T) {
 		if Str(s) != spellStr(s) {
 			t.Errorf("Str of %d bytes: %x", len(s), Str(s))
 		}
-		for _, most := range []int{len(s), len(s) + 1, math.MaxInt, -1, -2, math.MinInt} {
+		for _, most := range []int{len(s), len(s) + 1, math.MaxInt} {
 			checkRead(t, Str(s), readStr(most), sameThing, s)
 		}
 	}
-	checkTorn(t, Str(""), readStr(-1), sameThing)
-	checkTorn(t, Str(x("a", 200)), readStr(-1), sameThing)
+	checkTorn(t, Str(""), readStr(0), sameThing)
+	checkTorn(t, Str(x("a", 200)), readStr(math.MaxInt), sameThing)
 	checkTorn(t, Str(x("a", 200)), readStr(200), sameThing)
 }
 
@@ -353,19 +353,37 @@ func TestStrMost(t *testing.T) {
 		most   int
 	}{{1, 0}, {31, 30}, {201, 200}, {202, 200}, {200, 199}, {1 << 31, math.MaxInt32}, {1 << 63, math.MaxInt}, {math.MaxUint64, math.MaxInt}, {math.MaxUint64, 0}} {
 		checkForm(t, Uint(c.length), readStr(c.most), sameThing)
-		checkError(t, Uint(c.length), readStr(-1), sameThing, api.ErrTorn)
-		if c.length > 3 {
-			checkError(t, Uint(c.length)+"abc", readStr(math.MinInt), sameThing, api.ErrTorn)
-		}
 	}
 	checkForm(t, Str(x("a", 201)), readStr(200), sameThing)
 	checkRead(t, Str(x("a", 201)), readStr(201), sameThing, x("a", 201))
 	for _, length := range []uint64{1, 200, 1 << 31, 1<<63 - 1} {
 		checkError(t, Uint(length), readStr(int(length)), sameThing, api.ErrTorn)
+		if length > 3 {
+			checkError(t, Uint(length)+"abc", readStr(math.MaxInt), sameThing, api.ErrTorn)
+		}
 	}
-	checkForm(t, "\x81\x00a", readStr(-1), sameThing)
-	checkForm(t, x("\x80", 9)+"\x02", readStr(-1), sameThing)
+	checkForm(t, "\x81\x00a", readStr(math.MaxInt), sameThing)
+	checkForm(t, x("\x80", 9)+"\x02", readStr(math.MaxInt), sameThing)
 	checkError(t, "\x80", readStr(0), sameThing, api.ErrTorn)
+}
+
+// P5.2: where most is below 0 any string is longer, the empty one too.
+func TestStrMostBelowZero(t *testing.T) {
+	for _, most := range []int{-1, -2, -200, math.MinInt32, math.MinInt64} {
+		for _, length := range []int{0, 1, 2, 30, 127, 128, 200, 300} {
+			checkForm(t, Str(x("a", length)), readStr(most), sameThing)
+			checkForm(t, Uint(uint64(length)), readStr(most), sameThing)
+		}
+		for _, length := range []uint64{1 << 31, 1<<63 - 1, 1 << 63, uint64(most), math.MaxUint64} {
+			checkForm(t, Uint(length), readStr(most), sameThing)
+		}
+		for _, torn := range []string{"", "\x80", x("\xff", 9)} { // the number ahead comes first
+			checkError(t, torn, readStr(most), sameThing, api.ErrTorn)
+		}
+		for _, none := range []string{"\x80\x00", "\x81\x00a", x("\x80", 9) + "\x02"} {
+			checkForm(t, none, readStr(most), sameThing)
+		}
+	}
 }
 
 // P5.1 to P5.3: values in plain bytes.
@@ -457,8 +475,9 @@ func TestAt(t *testing.T) {
 			for name, got := range map[string]reading[any]{
 				"ReadUint":  loose(readUint(s, at), sameThing),
 				"ReadInt":   loose(readInt(s, at), sameThing),
-				"ReadStr":   loose(readStr(-1)(s, at), sameThing),
+				"ReadStr -": loose(readStr(-1)(s, at), sameThing),
 				"ReadStr 0": loose(readStr(0)(s, at), sameThing),
+				"ReadStr 9": loose(readStr(9)(s, at), sameThing),
 				"ReadValue": loose(readValue(s, at), sameValue),
 				"ReadType":  loose(readType(s, at), sameType),
 			} {
@@ -883,7 +902,9 @@ func checkByHand(t *testing.T, s string) {
 	t.Helper()
 	check(t, s, readUint, sameThing, byHand(s, func(h *hand) uint64 { return h.number().Uint64() }))
 	check(t, s, readInt, sameThing, byHand(s, (*hand).signed))
-	check(t, s, readStr(3), sameThing, byHand(s, func(h *hand) string { return h.text(3) }))
+	for most := range 5 {
+		check(t, s, readStr(most-1), sameThing, byHand(s, func(h *hand) string { return h.text(int64(most - 1)) }))
+	}
 	v := byHand(s, func(h *hand) api.Value { return h.value(1) })
 	check(t, s, readValue, sameValue, v)
 	if again, e := Value(v.got); v.e == api.OK && (again != s[:v.next] || e != api.OK) {
@@ -976,9 +997,10 @@ func TestNewMemory(t *testing.T) {
 	s := spell(rec("ab cd", str("xyz"), list(num(1), num(2))))
 	v, _, _ := ReadValue(s, 0)
 	other, _, _ := ReadValue(s, 0)
-	ty, _, _ := ReadType(spellType(recOf("ab", typ(api.TInt))), 0)
-	text, _, _ := ReadStr(Str("xyz"), 0, -1)
-	if lies(v.Names[0], s) || lies(v.Items[0].S, s) || lies(ty.Names[0], s) || lies(text, s) {
+	typeBytes, strBytes := spellType(recOf("ab", typ(api.TInt))), Str("xyz")
+	ty, _, _ := ReadType(typeBytes, 0)
+	text, _, _ := ReadStr(strBytes, 0, 3)
+	if text != "xyz" || lies(v.Names[0], s) || lies(v.Items[0].S, s) || lies(ty.Names[0], typeBytes) || lies(text, strBytes) {
 		t.Error("a string within the bytes that were handed in")
 	}
 	v.Names[0], v.Items[0], v.Items[1].Items[0] = "q", num(7), num(8)
