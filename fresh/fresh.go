@@ -11,14 +11,14 @@ import (
 func Value(v api.Value) api.Value {
 	v.S = strings.Clone(v.S)
 	v.Names = Names(v.Names)
-	v.Items = each(v.Items, Value)
+	v.Items = Each(v.Items, Value)
 	return v
 }
 
 // Type answers any type in new memory.
 func Type(t api.Type) api.Type {
 	t.Names = Names(t.Names)
-	t.Items = each(t.Items, Type)
+	t.Items = Each(t.Items, Type)
 	return t
 }
 
@@ -27,17 +27,17 @@ func Expr(x api.Expr) api.Expr {
 	x.S = strings.Clone(x.S)
 	x.V = Value(x.V)
 	x.Names = Names(x.Names)
-	x.Kids = each(x.Kids, Expr)
+	x.Kids = Each(x.Kids, Expr)
 	return x
 }
 
 // Names answers texts in new memory.
 func Names(names []string) []string {
-	return each(names, strings.Clone)
+	return Each(names, strings.Clone)
 }
 
-// each answers nil for an empty list.
-func each[T any](list []T, fresh func(T) T) []T {
+// Each answers a list in new memory, each thing in it made anew by fresh; none for an empty one.
+func Each[T any](list []T, fresh func(T) T) []T {
 	copied := append([]T(nil), list...)
 	for i, t := range copied {
 		copied[i] = fresh(t)

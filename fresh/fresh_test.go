@@ -86,3 +86,15 @@ func TestFreshNothing(t *testing.T) {
 		t.Error("lists:", x)
 	}
 }
+
+// Rule 5: a list of anything, with each thing in it made anew, and the one that was handed in as it was.
+func TestEach(t *testing.T) {
+	list := append(make([]int, 0, 4), 3, 1, 2)
+	copied := Each(list, func(n int) int { return 10 * n })
+	if fmt.Sprint(copied) != "[30 10 20]" || fmt.Sprint(list[:4]) != "[3 1 2 0]" {
+		t.Error("another one:", copied, list[:4])
+	}
+	if Each([]int{}, func(n int) int { return n }) != nil || Each(list[:0], func(n int) int { return n }) != nil {
+		t.Error("an empty list")
+	}
+}
