@@ -3,6 +3,7 @@ package pack
 import (
 	"bascule/api"
 	"bascule/codec"
+	"bascule/none"
 	"bascule/parse"
 )
 
@@ -50,7 +51,7 @@ func (w *writer) value(v api.Value) {
 
 func (w *writer) valueOrNone(v api.Value) {
 	if v.Kind == 0 {
-		insist(isNoValue(v))
+		insist(none.Value(v))
 		w.small(0)
 		return
 	}
@@ -66,7 +67,7 @@ func (w *writer) typ(t api.Type) {
 
 func (w *writer) expr(x api.Expr) {
 	if x.Kind == 0 {
-		insist(isNoExpr(x))
+		insist(none.Expr(x))
 		w.str("", api.MaxSource)
 		return
 	}

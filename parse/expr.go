@@ -8,6 +8,7 @@ import (
 	"bascule/api"
 	"bascule/float"
 	"bascule/lex"
+	"bascule/none"
 	"bascule/value"
 )
 
@@ -100,7 +101,7 @@ func isRightAlone(x api.Expr) bool {
 	default:
 		return false
 	}
-	return len(x.Kids) == kids && x.S == "" && len(x.Names) == 0 && isNothing(x.V)
+	return len(x.Kids) == kids && x.S == "" && len(x.Names) == 0 && none.Value(x.V)
 }
 
 // isConstant takes what the grammar can say without an operator.
@@ -119,11 +120,6 @@ func isConstant(v api.Value) bool {
 // isCanonical asks the bits, as what is no number differs from itself.
 func isCanonical(f float64) bool {
 	return math.Float64bits(f) == math.Float64bits(float.Canon(f))
-}
-
-// isNothing asks for F by itself: of a kind that is none, value.Same leaves it aside.
-func isNothing(v api.Value) bool {
-	return value.Same(v, api.Value{}) && float.Order(v.F, 0) == 0
 }
 
 func areFields(names []string) bool {
